@@ -145,8 +145,8 @@ func expectAfterPut(t *testing.T, n impl.Node, k impl.Key) {
 	}
 }
 
-// eachNode calls f with every node of up to three sets that are not empty and
-// whose positions are among four; the kinds of the keys differ from set to set.
+// eachNode calls f with a node for every choice of up to three sets, not empty,
+// from four positions; the kinds of the keys differ from set to set.
 func eachNode(f func(n impl.Node)) {
 	spots := [][2]int{{3, 8}, {3, 9}, {4, 8}, {4, 9}}
 	setOf := func(layer, bits int) []impl.Key {
