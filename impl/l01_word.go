@@ -3,6 +3,7 @@ package impl
 const (
 	maxName    = 6
 	maxText    = 60
+	maxWord    = 65535
 	crcPoly    = 2197175160
 	crcAllBits = 4294967295
 )
@@ -22,6 +23,10 @@ func NameOk(s string) bool {
 
 func nameByte(c byte) bool {
 	return 'a' <= c && c <= 'z' || '0' <= c && c <= '9'
+}
+
+func wordOk(n int) bool {
+	return n >= 0 && n <= maxWord
 }
 
 // PutW returns b followed by the low 16 bits of n.
