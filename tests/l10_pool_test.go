@@ -99,6 +99,41 @@ func keysPool(t *testing.T, n int) impl.Pool {
 	return p
 }
 
+// hiddenPool returns a pool with n keys. The volumes a and b both inherit the
+// blocks 1, 4 and 9, which hold 100 times their number; the other keys are of
+// kind KGone, for the blocks of five other versions.
+func hiddenPool(t *testing.T, n int) impl.Pool {
+	t.Helper()
+	p := impl.Pool{Ages: agesOf(1, 0, 2, 1, 3, 1, 4, 0, 5, 0, 6, 0, 7, 0, 8, 0), Cells: mixedCells(0), Next: 9}
+	p.Vols = []impl.Vol{volAs("a", 2, 12), volAs("b", 3, 12)}
+	var keys []impl.Key
+	for _, blk := range []int{1, 4, 9} {
+		p.Cells[blk] = cellAs(0, 100*blk)
+		keys = append(keys, refTo(blk, 1, blk, 0))
+	}
+	for i := range n - len(keys) {
+		keys = append(keys, goneKey(i/5, 4+i%5))
+	}
+	p.T = grown(t, keys...)
+	return p
+}
+
+// nodesPool returns a pool whose tree has n nodes: the first one is full, and
+// the others have two keys each.
+func nodesPool(n int) impl.Pool {
+	p := volsPool(5)
+	keys := []impl.Key{goneKey(0, 1), goneKey(0, 2), goneKey(0, 4)}
+	for i := 4; i < 12*5; i++ {
+		keys = append(keys, goneKey(i/5, 1+i%5))
+	}
+	nodes := []impl.Node{nodeOf(keys[:8:8])}
+	for keys = keys[8:]; len(nodes) < n; keys = keys[2:] {
+		nodes = append(nodes, nodeOf(keys[:2:2]))
+	}
+	p.T = treeOf(nodes...)
+	return p
+}
+
 // lastPool returns a pool with this Next, with one volume if there is an Id
 // below.
 func lastPool(next int) impl.Pool {
@@ -125,6 +160,12 @@ func soundPools(t *testing.T) map[string]impl.Pool {
 	}
 	for _, n := range []int{1, 59, 60} {
 		out[fmt.Sprint(n, " keys")] = keysPool(t, n)
+	}
+	for _, n := range []int{3, 58, 59, 60} {
+		out[fmt.Sprint(n, " keys, three of them inherited")] = hiddenPool(t, n)
+	}
+	for _, n := range []int{1, 19, 20} {
+		out[fmt.Sprint(n, " nodes")] = nodesPool(n)
 	}
 	for _, next := range []int{58, 59, 60, 61} {
 		out[fmt.Sprint("a Next of ", next)] = lastPool(next)

@@ -21,6 +21,18 @@ func opWrite(name string, blk, n int) impl.Op {
 	return impl.Op{Kind: impl.OpWrite, Name: name, A: blk, B: n}
 }
 
+func opKill(name string) impl.Op {
+	return impl.Op{Kind: impl.OpKill, Name: name}
+}
+
+func opDiscard(name string, blk int) impl.Op {
+	return impl.Op{Kind: impl.OpDiscard, Name: name, A: blk}
+}
+
+func opResize(name string, size int) impl.Op {
+	return impl.Op{Kind: impl.OpResize, Name: name, A: size}
+}
+
 // opForm says what the fields of a valid operation of one kind are.
 type opForm struct {
 	name, to bool
@@ -130,7 +142,7 @@ func TestOpOkForEachKind(t *testing.T) {
 	}
 }
 
-// doneBy says what Apply returns for an operation of the first kinds.
+// doneBy says what Apply returns for an operation of the kinds up to OpResize.
 func doneBy(p impl.Pool, o impl.Op) (impl.Pool, int) {
 	switch {
 	case !validOp(o) || !validPool(p):
@@ -139,6 +151,12 @@ func doneBy(p impl.Pool, o impl.Op) (impl.Pool, int) {
 		return afterCreate(p, o.Name, o.A)
 	case o.Kind == impl.OpSnap:
 		return afterSnap(p, o.Name, o.To, o.B == 1)
+	case o.Kind == impl.OpKill:
+		return afterKill(p, o.Name)
+	case o.Kind == impl.OpDiscard:
+		return afterDiscard(p, o.Name, o.A)
+	case o.Kind == impl.OpResize:
+		return afterResize(p, o.Name, o.A)
 	}
 	return afterWrite(p, o.Name, o.A, o.B)
 }
@@ -155,13 +173,16 @@ func expectApplied(t *testing.T, what string, p impl.Pool, o impl.Op) (impl.Pool
 	return got, code
 }
 
-// someOps returns operations of the first kinds, valid ones and invalid ones.
+// someOps returns operations of the kinds up to OpResize, valid ones and invalid
+// ones.
 func someOps() []impl.Op {
 	out := []impl.Op{{}, {Kind: impl.OpCreate}, {Kind: -1, Name: "a"}, {Kind: 10, Name: "a"}, {Kind: math.MaxInt}}
 	for _, name := range []string{"a", "b", "b1", "d", "v", "z", "zz", "", "Z"} {
 		for _, n := range []int{-1, 0, 1, 2, 5, 11, 12, 13, 65535, 65536} {
-			out = append(out, opCreate(name, n), opWrite(name, n, 7), opWrite(name, 1, n))
+			out = append(out, opCreate(name, n), opWrite(name, n, 7), opWrite(name, 1, n), opDiscard(name, n), opResize(name, n))
 			out = append(out, impl.Op{Kind: impl.OpCreate, Name: name, A: 3, B: n}, impl.Op{Kind: impl.OpSnap, Name: name, To: "e", A: n})
+			out = append(out, impl.Op{Kind: impl.OpKill, Name: name, A: n}, impl.Op{Kind: impl.OpKill, Name: name, B: n})
+			out = append(out, impl.Op{Kind: impl.OpDiscard, Name: name, A: 1, B: n}, impl.Op{Kind: impl.OpResize, Name: name, A: 1, B: n})
 		}
 		for _, to := range []string{"a", "e", "x", "", "E"} {
 			for fixed := -1; fixed <= 2; fixed++ {
@@ -204,12 +225,36 @@ func TestApplyReadsTheNumbers(t *testing.T) {
 	}
 }
 
+// TestApplyToEachVolume kills, discards and resizes, with numbers that tell a
+// block from a size.
+func TestApplyToEachVolume(t *testing.T) {
+	p := impl.PoolNew()
+	for _, o := range []impl.Op{opCreate("a", 6), opCreate("b", 3), opWrite("a", 1, 10), opWrite("a", 3, 30), opWrite("a", 5, 50), opWrite("b", 1, 11)} {
+		p, _ = expectApplied(t, "a sequence", p, o)
+	}
+	p, _ = expectApplied(t, "Discard", p, opDiscard("a", 3))
+	expectContents(t, "Discard", p, map[string][]int{"a": {0, 10, 0, 0, 0, 50}, "b": {0, 11, 0}})
+	p, _ = expectApplied(t, "Resize", p, opResize("a", 4))
+	expectContents(t, "Resize", p, map[string][]int{"a": {0, 10, 0, 0}, "b": {0, 11, 0}})
+	p, _ = expectApplied(t, "Kill", p, opKill("b"))
+	expectContents(t, "Kill", p, map[string][]int{"a": {0, 10, 0, 0}})
+	p, _ = expectApplied(t, "Resize", p, opResize("a", 7))
+	expectContents(t, "Resize", p, map[string][]int{"a": {0, 10, 0, 0, 0, 0, 0}})
+	for _, c := range []struct {
+		o    impl.Op
+		want int
+	}{{opKill("b"), impl.CoNone}, {opDiscard("b", 0), impl.CoNone}, {opDiscard("a", 7), impl.CoRange}, {opResize("a", 0), impl.CoRange}, {opResize("a", 13), impl.CoRange}} {
+		got, code := impl.Apply(p, c.o)
+		expectRefused(t, "Apply", got, code, p, c.want)
+	}
+}
+
 func TestApplyToInvalidPools(t *testing.T) {
 	pools := map[string]impl.Pool{"the zero Pool": {}, "7 volumes": volsPool(7)}
 	for what, f := range spoilers() {
 		pools[what] = spoiled(f)
 	}
-	ops := append([]impl.Op{opCreate("e", 4), opCreate("a", 4), opSnap("a", "e", 0), opWrite("a", 0, 5), opWrite("c", 99, 5), {}, {Kind: 10}, opWrite("", 0, 5)}, validOps()...)
+	ops := append([]impl.Op{opCreate("e", 4), opCreate("a", 4), opSnap("a", "e", 0), opWrite("a", 0, 5), opWrite("c", 99, 5), opKill("x"), opDiscard("a", 1), opResize("a", 1), {}, {Kind: 10}, opWrite("", 0, 5)}, validOps()...)
 	for what, p := range pools {
 		for _, o := range ops {
 			got, code := impl.Apply(p, o)
@@ -296,7 +341,8 @@ func TestApplyRefusesInvalidOperations(t *testing.T) {
 }
 
 func TestApplySharesNoMemory(t *testing.T) {
-	ops := append([]impl.Op{{}, opCreate("e", 4), opCreate("a", 4), opSnap("a", "e", 1), opWrite("a", 0, 5), opWrite("a", 1, 5), opWrite("c", 2, 5), opWrite("b1", 2, 5), opWrite("a", 99, 5), opWrite("v", 9, 5)}, validOps()...)
+	ops := append([]impl.Op{{}, opCreate("e", 4), opCreate("a", 4), opSnap("a", "e", 1), opWrite("a", 0, 5), opWrite("a", 1, 5), opWrite("c", 2, 5), opWrite("b1", 2, 5), opWrite("a", 99, 5), opWrite("v", 9, 5),
+		opKill("d"), opKill("x"), opDiscard("a", 1), opDiscard("c", 0), opDiscard("a", 99), opResize("c", 1), opResize("a", 12), opResize("a", 99)}, validOps()...)
 	for _, old := range somePools(t) {
 		for _, o := range ops {
 			p := roomyPool(old)
