@@ -372,6 +372,15 @@ func spoiled(f func(p *impl.Pool)) impl.Pool {
 	return p
 }
 
+// badPools returns a pool for each reason why a pool is not valid.
+func badPools() map[string]impl.Pool {
+	out := map[string]impl.Pool{"the zero Pool": {}, "7 volumes": volsPool(7), "17 versions": agesPool(17)}
+	for what, f := range spoilers() {
+		out[what] = spoiled(f)
+	}
+	return out
+}
+
 func TestPoolConstants(t *testing.T) {
 	if impl.MaxVols != 6 || impl.MaxSize != 12 {
 		t.Errorf("MaxVols, MaxSize = %d, %d, want 6, 12", impl.MaxVols, impl.MaxSize)
@@ -780,6 +789,29 @@ func scratchPool(p impl.Pool) {
 	fill(p.Ages, impl.Age{Id: -7, From: -7})
 	fill(p.Cells, cellAs(-7, -7))
 	fill(p.Vols, volAs("?", -7, -7))
+}
+
+// expectOwnMemory expects that a call that returns a pool changes nothing of its
+// argument, a copy of old, and that the result shares no memory with it, with the
+// result of another call, or between its nodes. It returns a copy of the result.
+func expectOwnMemory(t *testing.T, what string, old impl.Pool, call func(p impl.Pool) impl.Pool) impl.Pool {
+	t.Helper()
+	p := roomyPool(old)
+	out := call(p)
+	want, result := deepPool(out), deepPool(out)
+	expectWholePool(t, what, p, old)
+	other := call(p)
+	scratchPool(other)
+	expectWholePool(t, what+", the argument after a change of another result", p, old)
+	expectPool(t, what+", the result after a change of another result", out, want)
+	scratchPool(p)
+	expectPool(t, what+", the result after a change of the argument", out, want)
+	for i := range out.T.Nodes {
+		scratchNode(out.T.Nodes[i])
+		out.T.Nodes[i], want.T.Nodes[i] = impl.Node{}, impl.Node{}
+		expectPool(t, what+", after a change of a node", out, want)
+	}
+	return result
 }
 
 // somePools returns valid pools and invalid ones, in an order that does not

@@ -1294,11 +1294,7 @@ func TestResizeOnePerBlock(t *testing.T) {
 }
 
 func TestOperationsRefuseInvalidPools(t *testing.T) {
-	pools := map[string]impl.Pool{"the zero Pool": {}, "7 volumes": volsPool(7), "17 versions": agesPool(17)}
-	for what, f := range spoilers() {
-		pools[what] = spoiled(f)
-	}
-	for what, p := range pools {
+	for what, p := range badPools() {
 		for _, name := range []string{"a", "b1", "e", "zz", "", "A"} {
 			for _, n := range []int{-1, 0, 1, 12, 13} {
 				expectNoCreate(t, what, p, name, n, impl.CoForm)
@@ -1471,36 +1467,10 @@ func someChanges() []change {
 func TestPoolsShareNoMemory(t *testing.T) {
 	for _, old := range somePools(t) {
 		for _, c := range someChanges() {
-			p := roomyPool(old)
-			out, _ := c.call(p)
-			want := deepPool(out)
-			expectWholePool(t, c.what, p, old)
-			other, _ := c.call(p)
-			scratchPool(other)
-			expectWholePool(t, c.what+", the argument after a change of another result", p, old)
-			expectPool(t, c.what+", the result after a change of another result", out, want)
-			scratchPool(p)
-			expectPool(t, c.what+", the result after a change of the argument", out, want)
-		}
-	}
-}
-
-// TestPartsOfAPoolShareNoMemory changes one part of a result after the other.
-func TestPartsOfAPoolShareNoMemory(t *testing.T) {
-	for _, old := range somePools(t) {
-		for _, c := range someChanges() {
-			out, _ := c.call(old)
-			want := deepPool(out)
-			for i := range out.T.Nodes {
-				scratchNode(out.T.Nodes[i])
-				out.T.Nodes[i], want.T.Nodes[i] = impl.Node{}, impl.Node{}
-				expectPool(t, c.what+", after a change of a node", out, want)
-			}
-			fill(out.Vols, volAs("?", -7, -7))
-			fill(out.Ages, impl.Age{Id: -7, From: -7})
-			fill(want.Vols, volAs("?", -7, -7))
-			fill(want.Ages, impl.Age{Id: -7, From: -7})
-			expectPool(t, c.what+", after a change of the volumes and versions", out, want)
+			expectOwnMemory(t, c.what, old, func(p impl.Pool) impl.Pool {
+				out, _ := c.call(p)
+				return out
+			})
 		}
 	}
 }

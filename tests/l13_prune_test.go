@@ -864,10 +864,7 @@ func TestPruneOfSoundPools(t *testing.T) {
 
 // TestPruneInvalidPools covers each reason why a pool is not valid.
 func TestPruneInvalidPools(t *testing.T) {
-	pools := map[string]impl.Pool{"the zero Pool": {}, "7 volumes": volsPool(7), "17 versions": agesPool(17)}
-	for what, f := range spoilers() {
-		pools[what] = spoiled(f)
-	}
+	pools := badPools()
 	noVersion := calm(t, refTo(1, 4, 7, 0))
 	pools["the version of an unseen key does not exist"] = noVersion
 	noVersion = calm(t, refTo(1, 2, 7, 0), goneKey(9, 5))
@@ -991,21 +988,7 @@ func TestPruneSharesNoMemory(t *testing.T) {
 		step, _ := impl.NextStep(old)
 		steps[step]++
 		for what, call := range calls {
-			p := roomyPool(old)
-			out := call(p)
-			want := deepPool(out)
-			expectWholePool(t, what, p, old)
-			other := call(p)
-			scratchPool(other)
-			expectWholePool(t, what+", the argument after a change of another result", p, old)
-			expectPool(t, what+", the result after a change of another result", out, want)
-			scratchPool(p)
-			expectPool(t, what+", the result after a change of the argument", out, want)
-			for i := range out.T.Nodes {
-				scratchNode(out.T.Nodes[i])
-				out.T.Nodes[i], want.T.Nodes[i] = impl.Node{}, impl.Node{}
-				expectPool(t, what+", after a change of a node", out, want)
-			}
+			expectOwnMemory(t, what, old, call)
 		}
 	}
 	if len(steps) != 5 {

@@ -250,12 +250,8 @@ func TestApplyToEachVolume(t *testing.T) {
 }
 
 func TestApplyToInvalidPools(t *testing.T) {
-	pools := map[string]impl.Pool{"the zero Pool": {}, "7 volumes": volsPool(7)}
-	for what, f := range spoilers() {
-		pools[what] = spoiled(f)
-	}
 	ops := append([]impl.Op{opCreate("e", 4), opCreate("a", 4), opSnap("a", "e", 0), opWrite("a", 0, 5), opWrite("c", 99, 5), opKill("x"), opDiscard("a", 1), opResize("a", 1), {}, {Kind: 10}, opWrite("", 0, 5)}, validOps()...)
-	for what, p := range pools {
+	for what, p := range badPools() {
 		for _, o := range ops {
 			got, code := impl.Apply(p, o)
 			expectRefused(t, what, got, code, p, impl.CoForm)
@@ -345,16 +341,10 @@ func TestApplySharesNoMemory(t *testing.T) {
 		opKill("d"), opKill("x"), opDiscard("a", 1), opDiscard("c", 0), opDiscard("a", 99), opResize("c", 1), opResize("a", 12), opResize("a", 99)}, validOps()...)
 	for _, old := range somePools(t) {
 		for _, o := range ops {
-			p := roomyPool(old)
-			out, _ := impl.Apply(p, o)
-			want := deepPool(out)
-			expectWholePool(t, "the argument", p, old)
-			other, _ := impl.Apply(p, o)
-			scratchPool(other)
-			expectWholePool(t, "the argument after a change of another result", p, old)
-			expectPool(t, "the result after a change of another result", out, want)
-			scratchPool(p)
-			expectPool(t, "the result after a change of the argument", out, want)
+			expectOwnMemory(t, "Apply", old, func(p impl.Pool) impl.Pool {
+				out, _ := impl.Apply(p, o)
+				return out
+			})
 		}
 	}
 }
